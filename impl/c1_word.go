@@ -164,7 +164,7 @@ func DedentLines(lines []string) []string {
 
 // IndentLines returns lines with spaces ahead.
 func IndentLines(lines []string, n int) ([]string, bool) {
-	if !validLines(lines) || n < 0 || n > MaxIndent {
+	if !validLines(lines) || !isIndent(n) {
 		return nil, false
 	}
 	out := changeLines(lines, emptyBlank, margin(n).putOn)
@@ -172,6 +172,11 @@ func IndentLines(lines []string, n int) ([]string, bool) {
 		return nil, false
 	}
 	return out, true
+}
+
+// isIndent reports whether n spaces can stand ahead of lines.
+func isIndent(n int) bool {
+	return n >= 0 && n <= MaxIndent
 }
 
 // changeLines returns a copy of the lines, each one changed by all changes in their order.

@@ -52,6 +52,15 @@ func repLines(line string, n int) []string {
 	return slices.Repeat([]string{line}, n)
 }
 
+// sizeOf returns the number of bytes of the longest line, 0 for no lines.
+func sizeOf(lines []string) int {
+	size := 0
+	for _, line := range lines {
+		size = max(size, len(line))
+	}
+	return size
+}
+
 // allPlain returns every byte that a text may have, once.
 func allPlain() string {
 	var b []byte
@@ -110,6 +119,23 @@ func wantList(t *testing.T, what string, got, want []string) {
 	t.Helper()
 	if !slices.Equal(got, want) {
 		t.Errorf("%s = %q, want %q", what, got, want)
+	}
+}
+
+// wantTrue reports a list that is not the one wanted, or that comes with false.
+func wantTrue(t *testing.T, what string, got []string, ok bool, want []string) {
+	t.Helper()
+	if !ok {
+		t.Errorf("%s is false", what)
+	}
+	wantList(t, what, got, want)
+}
+
+// wantFalse reports a list that comes with true, or with false but is not empty.
+func wantFalse(t *testing.T, what string, got []string, ok bool) {
+	t.Helper()
+	if ok || len(got) != 0 {
+		t.Errorf("%s = %q, %v", what, got, ok)
 	}
 }
 

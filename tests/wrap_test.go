@@ -60,15 +60,6 @@ func oneLine(list []string) string {
 	return strings.Join(list, " ")
 }
 
-// longestWord returns the number of bytes of the longest word.
-func longestWord(list []string) int {
-	n := 0
-	for _, word := range list {
-		n = max(n, len(word))
-	}
-	return n
-}
-
 // waysFrom returns all ways to put words into lines that fit, those with fewer words in the first line ahead.
 func waysFrom(list []string, width int) [][]string {
 	if len(list) == 0 {
@@ -154,15 +145,6 @@ func TestPromise10WordsAreToldApart(t *testing.T) {
 
 // Promise 11.
 
-// wantWrap reports lines that are not those wanted, and true.
-func wantWrap(t *testing.T, what string, got []string, ok bool, want []string) {
-	t.Helper()
-	if !ok {
-		t.Errorf("%s is false", what)
-	}
-	wantList(t, what, got, want)
-}
-
 // wantNoWrap reports lines that are there, but must not be.
 func wantNoWrap(t *testing.T, list []string, width int) {
 	t.Helper()
@@ -202,7 +184,7 @@ func TestWrapWords(t *testing.T) {
 		{repLines("a", impl.MaxWords), 1, repLines("a", impl.MaxWords)},
 	} {
 		got, ok := impl.WrapWords(c.list, c.width)
-		wantWrap(t, fmt.Sprintf("WrapWords(%q, %d)", c.list, c.width), got, ok, c.want)
+		wantTrue(t, fmt.Sprintf("WrapWords(%q, %d)", c.list, c.width), got, ok, c.want)
 	}
 }
 
@@ -228,7 +210,7 @@ func TestWrapWordsOfOtherArguments(t *testing.T) {
 func TestPromise11TheGreedyWayNeedsTheFewestLines(t *testing.T) {
 	forWords(func(list []string, width int) {
 		lines, ok := impl.WrapWords(list, width)
-		if ok != (longestWord(list) <= width) {
+		if ok != (sizeOf(list) <= width) {
 			t.Errorf("WrapWords(%q, %d) = %v", list, width, ok)
 		}
 		if !ok {
@@ -358,7 +340,7 @@ func TestEvenWrap(t *testing.T) {
 		{repLines(longest, impl.MaxWords), 116, []string{oneLine(repLines(longest, impl.MaxWords))}},
 	} {
 		got, ok := impl.EvenWrap(c.list, c.width)
-		wantWrap(t, fmt.Sprintf("EvenWrap(%q, %d)", c.list, c.width), got, ok, c.want)
+		wantTrue(t, fmt.Sprintf("EvenWrap(%q, %d)", c.list, c.width), got, ok, c.want)
 	}
 }
 

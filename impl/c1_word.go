@@ -217,21 +217,23 @@ func (m margin) putOn(line string) string {
 
 // PadText returns a text of a width.
 func PadText(s string, width int, how string) string {
-	if !ValidText(s) || width < 0 || width > MaxText {
+	if !ValidText(s) || width < 0 || width > MaxText || !isHow(how) {
 		return ""
 	}
 	missing := max(width-len(s), 0)
 	ahead := 0
 	switch how {
-	case "left":
 	case "right":
 		ahead = missing
 	case "middle":
 		ahead = missing / 2
-	default:
-		return ""
 	}
 	return spaces(ahead) + s + spaces(missing-ahead)
+}
+
+// isHow reports whether it is a way to pad texts.
+func isHow(how string) bool {
+	return how == "left" || how == "right" || how == "middle"
 }
 
 // spaces returns n spaces.

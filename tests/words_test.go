@@ -10,7 +10,8 @@ import (
 	"loop.example/textsinlines/impl"
 )
 
-var hows = []string{"left", "right", "middle"}
+// allHows are the ways to pad texts.
+var allHows = []string{"left", "right", "middle"}
 
 func TestLimitsOfWords(t *testing.T) {
 	if impl.MaxText != 120 || impl.MaxLines != 20 || impl.MaxTab != 12 || impl.MaxIndent != 10 {
@@ -463,7 +464,7 @@ func TestPadTextOfOtherArguments(t *testing.T) {
 		wantText(t, fmt.Sprintf("PadText by %q", how), impl.PadText("ab", 5, how), "")
 		wantText(t, fmt.Sprintf("PadText of a wide text by %q", how), impl.PadText("abcdef", 5, how), "")
 	}
-	for _, how := range hows {
+	for _, how := range allHows {
 		for _, width := range []int{math.MinInt, -1, impl.MaxText + 1, math.MaxInt} {
 			wantText(t, fmt.Sprintf("PadText to %d by %q", width, how), impl.PadText("ab", width, how), "")
 		}
@@ -477,7 +478,7 @@ func TestPadTextOfOtherArguments(t *testing.T) {
 func TestPromise9PaddedTextsAreWide(t *testing.T) {
 	for _, s := range someTexts() {
 		for _, width := range []int{0, 1, 2, 3, 5, 6, 9, 60, 119, 120} {
-			for _, how := range hows {
+			for _, how := range allHows {
 				out := impl.PadText(s, width, how)
 				if len(out) != max(len(s), width) || !strings.Contains(out, s) {
 					t.Errorf("PadText(%q, %d, %q) = %q", s, width, how, out)
